@@ -286,7 +286,7 @@ func TestDecodeEdits(t *testing.T) {
 	}
 }
 
-// 10.8: every cut into up to four pieces, empty ones too, and byte by byte.
+// 10.8: every cut into three pieces, empty ones too, many into four, and byte by byte.
 func TestCuts(t *testing.T) {
 	for _, s := range []string{"2\r\nab\r\n1;x\r\nc\r\n0\r\nA: 1\r\n\r\nmore", "1\r\na\r\n2\r\nbc\rx", "3\r\nabc\r\n4\r\n", "1\r\na\r\n0\r\nA: 1\r\nA: 2\r\nA: 3\r\n", "0\r\nA: 1\r\nHost: x\r\n", "1\r\na\r\n\n", "0\r\nA: 123456789012345"} {
 		for i := range len(s) + 1 {
